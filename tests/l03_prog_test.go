@@ -425,19 +425,29 @@ func opsOf(body []impl.Stmt) []int64 {
 	return ops
 }
 
-// checkBlocks holds EndOf, at every place, and the steps against the reader.
-func checkBlocks(t *testing.T, body []impl.Stmt) {
+func checkEnd(t *testing.T, body []impl.Stmt, at, wantSecond, wantEnd int64) {
+	t.Helper()
+	if second, end := impl.EndOf(body, at); second != wantSecond || end != wantEnd {
+		t.Errorf("EndOf(%v, %d) = %d, %d; want %d, %d", opsOf(body), at, second, end, wantSecond, wantEnd)
+	}
+}
+
+// checkEnds holds EndOf, at every place, against the reader.
+func checkEnds(t *testing.T, body []impl.Stmt) {
 	t.Helper()
 	for at := range int64(len(body)) {
-		second, end := impl.EndOf(body, at)
 		want, is := readBlock(body, at)
 		if !is || want.end == at {
 			want = block{second: -1, end: -1}
 		}
-		if second != want.second || end != want.end {
-			t.Errorf("EndOf(%v, %d) = %d, %d; want %d, %d", opsOf(body), at, second, end, want.second, want.end)
-		}
+		checkEnd(t, body, at, want.second, want.end)
 	}
+}
+
+// checkBlocks holds EndOf, the nesting and the steps against the reader.
+func checkBlocks(t *testing.T, body []impl.Stmt) {
+	t.Helper()
+	checkEnds(t, body)
 	p := roomy(body...)
 	next, steps := readBody(body, 0)
 	switch {
@@ -665,13 +675,6 @@ func TestStepsPastTheLimit(t *testing.T) {
 	checkSteps(t, "twenty loops of one round", roomy(loops(nil, slices.Repeat([]int64{1}, 20)...)...), 40)
 }
 
-func checkEnd(t *testing.T, body []impl.Stmt, at, wantSecond, wantEnd int64) {
-	t.Helper()
-	if second, end := impl.EndOf(body, at); second != wantSecond || end != wantEnd {
-		t.Errorf("EndOf(%v, %d) = %d, %d; want %d, %d", opsOf(body), at, second, end, wantSecond, wantEnd)
-	}
-}
-
 func TestEndOf(t *testing.T) {
 	open, other, end, loop := asked(num(1)), plain(impl.StElse), plain(impl.StEnd), numbered(impl.StLoop, 2)
 	try, catch, out := plain(impl.StTry), numbered(impl.StCatch, 2), told(num(1))
@@ -702,18 +705,7 @@ func TestEndOfLooksNoFurther(t *testing.T) {
 		checkEnd(t, ahead, n, n+4, n+5)
 		checkEnd(t, ahead, n+1, n+2, n+3)
 		checkEnd(t, within, 1, 2, 3)
-		checkBlocksEnds(t, within)
-	}
-}
-
-func checkBlocksEnds(t *testing.T, body []impl.Stmt) {
-	t.Helper()
-	for at := range int64(len(body)) {
-		want, is := readBlock(body, at)
-		if !is || want.end == at {
-			want = block{second: -1, end: -1}
-		}
-		checkEnd(t, body, at, want.second, want.end)
+		checkEnds(t, within)
 	}
 }
 
@@ -775,7 +767,7 @@ func allFaults() []fault {
 		ahead("41 Stmts", impl.PgRoom, outs(41)...),
 		ahead("an Op of 10", impl.PgStmt, plain(10)),
 		ahead("an Op of -1", impl.PgStmt, plain(-1)),
-		ahead("a Low is set", impl.PgStmt, set(-1, one())),
+		ahead("a Low is set", impl.PgStmt, set(0, one())),
 		ahead("an At of an StOut", impl.PgStmt, impl.Stmt{Op: impl.StOut, At: one(), Exp: one()}),
 		ahead("no Exp", impl.PgStmt, told()),
 		ahead("no At", impl.PgStmt, put(0, nil, one())),
@@ -793,7 +785,7 @@ func allFaults() []fault {
 }
 
 // broken is a right Prog with those faults, the last one ahead of all in the
-// Body. Its numbers are right at every Width and its Temp is right by itself.
+// Body. What it puts out is right whatever else is wrong.
 func broken(faults ...fault) impl.Prog {
 	p := impl.Prog{Width: 8, Lows: maxes(3), Secrets: maxes(1), Temps: 1, Arrays: []int64{2}, Body: []impl.Stmt{told(num(1))}}
 	for _, f := range faults {
