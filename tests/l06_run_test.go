@@ -914,17 +914,7 @@ func TestAllInputsOfAProgram(t *testing.T) {
 	source := rand.New(rand.NewSource(62))
 	for range 40 {
 		p := lively(source, grownProg(source))
-		lists := [][]int64{nil}
-		for _, input := range slices.Concat(p.Lows, p.Secrets) {
-			var more [][]int64
-			for _, list := range lists {
-				for n := range input.Max + 1 {
-					more = append(more, append(slices.Clone(list), n))
-				}
-			}
-			lists = more
-		}
-		for _, list := range lists {
+		for _, list := range everyInput(p) {
 			checkRun(t, p, list[:len(p.Lows)], list[len(p.Lows):])
 		}
 	}
