@@ -634,17 +634,18 @@ func mayFollow(open []int64, op int64) ([]int64, bool) {
 	return open, true
 }
 
-// eachShortBody goes through all that are well nested, of at most so many.
-func eachShortBody(body []impl.Stmt, open []int64, most int, call func(body []impl.Stmt)) {
+// eachShortBody goes through all of these that are well nested, of at most so
+// many.
+func eachShortBody(stmts []impl.Stmt, body []impl.Stmt, open []int64, most int, call func(body []impl.Stmt)) {
 	if len(body)+len(open) > most {
 		return // there is no room for the StEnds
 	}
 	if len(open) == 0 {
 		call(body)
 	}
-	for _, s := range shortStmts {
+	for _, s := range stmts {
 		if next, is := mayFollow(open, s.Op); is {
-			eachShortBody(append(slices.Clone(body), s), next, most, call)
+			eachShortBody(stmts, append(slices.Clone(body), s), next, most, call)
 		}
 	}
 }
@@ -652,7 +653,7 @@ func eachShortBody(body []impl.Stmt, open []int64, most int, call func(body []im
 func TestShortBodiesAllRun(t *testing.T) {
 	count, caught := 0, int64(0)
 	lows, secrets := []int64{6, 0}, []int64{1, 5}
-	eachShortBody(nil, nil, 7, func(body []impl.Stmt) {
+	eachShortBody(shortStmts, nil, nil, 7, func(body []impl.Stmt) {
 		m := checkRun(t, roomy(body...), lows, secrets)
 		count++
 		caught += m.caught
