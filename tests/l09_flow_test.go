@@ -504,16 +504,26 @@ func chain(p impl.Prog, links []func(at int64, from []impl.Term) []impl.Stmt) im
 	return p
 }
 
+// chainHeads have no Body, but a Secret from which a chain may begin.
+func chainHeads() []impl.Prog {
+	return []impl.Prog{
+		{Width: 3, Secrets: maxes(1), Temps: 6, Arrays: []int64{1, 6}}, {Width: 1, Lows: maxes(1), Secrets: maxes(1, 0), Temps: 6, Arrays: []int64{6, 1}},
+		fullest(), {Width: 8, Secrets: maxes(3, 3, 3), Temps: 6, Arrays: []int64{1, 1}}, {Width: 2, Secrets: maxes(1), Temps: 0, Arrays: []int64{1}}, {Width: 2, Secrets: maxes(1)},
+	}
+}
+
+// linkPlainly and linkWithin make a link of a chain.
+func linkPlainly(at int64, from []impl.Term) []impl.Stmt { return []impl.Stmt{set(at, from)} }
+func linkWithin(at int64, from []impl.Term) []impl.Stmt {
+	return wrapped(numbered(impl.StLoop, 0), set(at, from))
+}
+
 // TestLabelsGoThroughLongChains: of all variables and all arrays, against the
 // order of the Stmts.
 func TestLabelsGoThroughLongChains(t *testing.T) {
-	plainly := func(at int64, from []impl.Term) []impl.Stmt { return []impl.Stmt{set(at, from)} }
+	plainly, within := linkPlainly, linkWithin
 	asking := func(at int64, from []impl.Term) []impl.Stmt { return wrapped(asked(from...), set(at, one())) }
-	within := func(at int64, from []impl.Term) []impl.Stmt { return wrapped(numbered(impl.StLoop, 0), set(at, from)) }
-	for _, p := range []impl.Prog{
-		{Width: 3, Secrets: maxes(1), Temps: 6, Arrays: []int64{1, 6}}, {Width: 1, Lows: maxes(1), Secrets: maxes(1, 0), Temps: 6, Arrays: []int64{6, 1}},
-		fullest(), {Width: 8, Secrets: maxes(3, 3, 3), Temps: 6, Arrays: []int64{1, 1}}, {Width: 2, Secrets: maxes(1), Temps: 0, Arrays: []int64{1}}, {Width: 2, Secrets: maxes(1)},
-	} {
+	for _, p := range chainHeads() {
 		for _, links := range [][]func(int64, []impl.Term) []impl.Stmt{{plainly}, {asking}, {within}, {asking, plainly}, {plainly, plainly, within, asking}} {
 			q := chain(p, links)
 			lows, last := len(p.Lows), int64(1)<<(len(p.Secrets)-1)
@@ -815,29 +825,35 @@ func checkNoFlow(t *testing.T, name string, p impl.Prog) {
 	}
 }
 
-func TestFlowOfProgramsThatAreNotRight(t *testing.T) {
+// eachWrongProg makes Progs that are not right: with one fault or two, where
+// more is done behind it, and with sizes that are far off.
+func eachWrongProg(call func(name string, p impl.Prog)) {
 	for _, f := range allFaults() {
-		checkNoFlow(t, f.name, broken(f))
-		leaking := broken(f)
-		leaking.Body = append(leaking.Body, told(variable(1)), told(variable(1), cell(0)))
-		checkNoFlow(t, f.name, leaking)
+		call(f.name, broken(f))
+		more := broken(f)
+		more.Body = append(more.Body, set(2, one()), told(variable(1)), told(num(0), cell(0)), told(variable(1), cell(0)))
+		call(f.name, more)
 		for _, g := range allFaults() {
-			checkNoFlow(t, f.name+" and "+g.name, broken(f, g))
+			call(f.name+" and "+g.name, broken(f, g))
 		}
 	}
-	checkFlow(t, broken(), impl.Flow{Vars: []int64{0, 1, 0}, Arrays: []int64{0}})
-	checkTraps(t, broken(), []impl.Term{num(7), cell(0)}, true)
-	checkNoFlow(t, "the zero Prog", impl.Prog{})
+	call("the zero Prog", impl.Prog{})
 	for _, n := range append([]int64{-8, -1, 0, 9, 62, 63, 64, 65}, far...) {
-		checkNoFlow(t, fmt.Sprintf("Width %d", n), impl.Prog{Width: n, Secrets: maxes(1), Arrays: []int64{2}, Body: outs(1)})
+		call(fmt.Sprintf("Width %d", n), impl.Prog{Width: n, Secrets: maxes(1), Arrays: []int64{2}, Body: outs(1)})
 	}
 	for _, n := range append([]int64{-1, 7, 8}, far...) {
-		checkNoFlow(t, fmt.Sprintf("%d Temps", n), impl.Prog{Width: 2, Secrets: maxes(1), Temps: n, Body: outs(1)})
-		checkNoFlow(t, fmt.Sprintf("an array of %d cells", n), impl.Prog{Width: 2, Secrets: maxes(1), Arrays: []int64{n}, Body: outs(1)})
+		call(fmt.Sprintf("%d Temps", n), impl.Prog{Width: 2, Secrets: maxes(1), Temps: n, Body: outs(1)})
+		call(fmt.Sprintf("an array of %d cells", n), impl.Prog{Width: 2, Secrets: maxes(1), Arrays: []int64{n}, Body: outs(1)})
 	}
-	checkNoFlow(t, "many Secrets", withInputs(nil, make([]impl.Input, 5000)))
-	checkNoFlow(t, "an StEnd too few", roomy(asked(variable(2))))
-	checkNoFlow(t, "an StPut with no At", roomy(put(0, nil, []impl.Term{variable(2)})))
+	call("many Secrets", withInputs(nil, make([]impl.Input, 5000)))
+	call("an StEnd too few", roomy(asked(variable(2))))
+	call("an StPut with no At", roomy(put(0, nil, []impl.Term{variable(2)})))
+}
+
+func TestFlowOfProgramsThatAreNotRight(t *testing.T) {
+	eachWrongProg(func(name string, p impl.Prog) { checkNoFlow(t, name, p) })
+	checkFlow(t, broken(), impl.Flow{Vars: []int64{0, 1, 0}, Arrays: []int64{0}})
+	checkTraps(t, broken(), []impl.Term{num(7), cell(0)}, true)
 }
 
 // askAllOfFlow spoils each answer and asks again.
