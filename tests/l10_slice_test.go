@@ -146,16 +146,16 @@ func behindFlowHead(t *testing.T, body string) impl.Prog {
 	return ofText(t, strings.TrimSuffix(flowHead+"; "+body, "; "))
 }
 
-// checkTellsTheSame runs a program and its slice with every input. It answers
-// how many of these runs end by a trap.
-func checkTellsTheSame(t *testing.T, p, slice impl.Prog) int {
+// checkTellsTheSame runs a program and what is made of it with every input. It
+// answers how many of these runs end by a trap.
+func checkTellsTheSame(t *testing.T, p, made impl.Prog) int {
 	t.Helper()
 	traps := 0
 	for _, list := range everyInput(p) {
 		lows, secrets := list[:len(p.Lows)], list[len(p.Lows):]
 		o, _ := impl.RunOf(p, lows, secrets)
-		if got, is := impl.RunOf(slice, lows, secrets); !is || !sameOutcomes(o, got) {
-			t.Errorf("with %v and %v, %v is told, but %v by the slice, of\n%s", lows, secrets, o, got, writtenProg(p))
+		if got, is := impl.RunOf(made, lows, secrets); !is || !sameOutcomes(o, got) {
+			t.Errorf("with %v and %v, %v is told, but %v by what is made, of\n%s", lows, secrets, o, got, writtenProg(p))
 			break
 		}
 		traps += int(oneWhere(o.End == impl.EnTrap))
